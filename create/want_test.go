@@ -186,3 +186,28 @@ func TestOneRootLargeAndNot(t *testing.T) {
 		}
 	}
 }
+
+// P9.6, P9.7: as many pieces as there may be, of a file as long as it may be; its layer is not there.
+func TestWantsAtTheLimits(t *testing.T) {
+	sc := api.Scale{Block: api.MaxBlock, Width: 32}
+	m := lens(api.MaxBlock*api.MaxPieceBlocks, api.MaxLen-1)
+	m.Name, m.Files[0].Root = "t", api.Hash{5}
+	list, e := create.List(sc, m)
+	if e != api.OK || len(list) != api.MaxPieces {
+		t.Fatalf("P9.7: %d pieces, %d", len(list), e)
+	}
+	for i, p := range list {
+		want := api.Piece{Len: m.PieceLen, Leaves: api.MaxPieceBlocks}
+		if i == api.MaxPieces-1 {
+			want.Len--
+		}
+		if p != want {
+			t.Fatalf("P9.7: piece %d is %v", i, p)
+		}
+	}
+	for i, want := range map[int]api.Errno{api.MaxPieces - 1: api.OK, api.MaxPieces: api.ErrPiece} {
+		if h, known, e := create.Want(sc, m, i); h != (api.Hash{}) || known || e != want {
+			t.Errorf("P9.6: Want(%d) = %x, %v, %d", i, h, known, e)
+		}
+	}
+}
